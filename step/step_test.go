@@ -19,7 +19,7 @@ func editor(s string) api.State {
 // What a key did to the undo tree leads there again.
 func TestDeeds(t *testing.T) {
 	s := editor("abcdef")
-	s.Regs = []api.Reg{{Name: 'a', Text: "xxuxg-\x12uxxg+"[:8]}}
+	s.Regs = []api.Reg{{Name: 'a', Text: "xxuxg-\x12u"}}
 	for _, k := range "x@a2ug+@ax3xix\x1b@au" {
 		x, l := Key(s, int(k))
 		tree := s.Undo
