@@ -3,13 +3,12 @@
 package live
 
 import (
-	"slices"
-
 	"quill/api"
 	"quill/buffer"
 	"quill/history"
 	"quill/marks"
 	"quill/model"
+	"quill/own"
 	"quill/patch"
 	"quill/step"
 	"quill/text"
@@ -60,13 +59,7 @@ func (ed *Editor) State() api.State {
 	if ed == nil {
 		return api.State{}
 	}
-	s := ed.rest
-	s.Pend = slices.Clone(s.Pend)
-	s.Regs = slices.Clone(s.Regs)
-	s.Marks = slices.Clone(s.Marks)
-	s.Dot = slices.Clone(s.Dot)
-	s.Typed = slices.Clone(s.Typed)
-	s.Keys = slices.Clone(s.Keys)
+	s := own.State(ed.rest)
 	s.Text, s.Undo = ed.buffer.Text(), ed.undo.Tree()
 	return s
 }

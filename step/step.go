@@ -2,10 +2,10 @@
 package step
 
 import (
-	"slices"
 	"unicode/utf8"
 
 	"quill/api"
+	"quill/own"
 	"quill/text"
 )
 
@@ -17,7 +17,7 @@ const (
 // Key tells an editor (one that may be) behind a key by hand, and what was done
 // to its undo tree, in order.
 func Key(s api.State, k int) (api.State, []Deed) {
-	w := work{s: clone(s)}
+	w := work{s: own.State(s)}
 	w.s.Err = 0
 	if e := w.press(k, 0); e != api.OK {
 		return Fail(s, k, e), nil
@@ -28,7 +28,7 @@ func Key(s api.State, k int) (api.State, []Deed) {
 
 // Fail tells an editor as an error by hand leaves it.
 func Fail(s api.State, k int, e api.Errno) api.State {
-	x := clone(s)
+	x := own.State(s)
 	x.Err = int(e)
 	x.Pend = nil
 	if x.Mode == api.ModeVisual || x.Mode == api.ModeLines {
@@ -54,18 +54,6 @@ func rest(s *api.State) {
 // isRune tells whether a text may have it.
 func isRune(k int) bool {
 	return k > 0 && k <= utf8.MaxRune && utf8.ValidRune(rune(k))
-}
-
-// clone tells a copy that has no list in common with s.
-func clone(s api.State) api.State {
-	s.Pend = slices.Clone(s.Pend)
-	s.Regs = slices.Clone(s.Regs)
-	s.Marks = slices.Clone(s.Marks)
-	s.Dot = slices.Clone(s.Dot)
-	s.Typed = slices.Clone(s.Typed)
-	s.Keys = slices.Clone(s.Keys)
-	s.Undo.Nodes = slices.Clone(s.Undo.Nodes)
-	return s
 }
 
 // Fits tells whether a text is one that an editor of these limits may have.
