@@ -22,8 +22,8 @@ func (w *work) add(o api.Op) {
 	w.ops = append(w.ops, o)
 }
 
-// delete deletes n elements from low on that are not dead.
-func (w *work) delete(low, n int) {
+// remove deletes n elements from low on that are not dead.
+func (w *work) remove(low, n int) {
 	for i := low; n > 0; i++ {
 		d := &w.y.Doc[i]
 		if d.Dead {

@@ -2,9 +2,9 @@ package order
 
 import (
 	"cmp"
-	"unicode/utf8"
 
 	"quill/api"
+	"quill/spot"
 )
 
 // Check tells whether elements may be.
@@ -14,7 +14,7 @@ func Check(l []api.Elem) api.Errno {
 	}
 	var all ids
 	for _, x := range l {
-		if !mayID(x.ID) || !isRune(x.Rune) || !all.add(x.ID) {
+		if !mayID(x.ID) || !spot.IsRune(x.Rune) || !all.add(x.ID) {
 			return api.ErrForm
 		}
 	}
@@ -29,7 +29,7 @@ func May(o api.Op) api.Errno {
 	}
 	switch o.Kind {
 	case api.OpInsert:
-		ok = ok && isRune(o.Rune) && (o.After == api.ID{} || mayID(o.After) && less(o.After, o.ID))
+		ok = ok && spot.IsRune(o.Rune) && (o.After == api.ID{} || mayID(o.After) && less(o.After, o.ID))
 	case api.OpDelete:
 		ok = ok && o.Rune == 0 && o.After == api.ID{}
 	default:
@@ -45,11 +45,6 @@ func within(n, low, high int) bool { return n >= low && n <= high }
 
 func mayID(id api.ID) bool {
 	return within(id.Time, 1, api.MaxTime) && within(id.Site, 0, api.MaxSites)
-}
-
-// isRune tells whether a text may have it.
-func isRune(r int) bool {
-	return within(r, 1, utf8.MaxRune) && utf8.ValidRune(rune(r))
 }
 
 func compare(a, b api.ID) int {

@@ -2,6 +2,8 @@
 package spot
 
 import (
+	"unicode/utf8"
+
 	"quill/api"
 	"quill/text"
 )
@@ -53,4 +55,9 @@ func Other(c rune) rune {
 		return c - 'A' + 'a'
 	}
 	return c
+}
+
+// IsRune tells whether a number is that of a rune which a text may have.
+func IsRune(k int) bool {
+	return k >= 0 && k <= utf8.MaxRune && utf8.ValidRune(rune(k)) && text.Check(string(rune(k))) == api.OK
 }

@@ -41,3 +41,11 @@ func TestOther(t *testing.T) {
 		}
 	}
 }
+
+func TestIsRune(t *testing.T) {
+	for k, want := range map[int]bool{1: true, 10: true, 127: true, 0xd7ff: true, 0xe000: true, 0xfffd: true, 0x10ffff: true, 0: false, -1: false, 0xd800: false, 0xdfff: false, 0x110000: false, 1<<32 + 'a': false, -1 << 63: false} {
+		if IsRune(k) != want {
+			t.Error(k, !want)
+		}
+	}
+}

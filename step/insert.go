@@ -50,7 +50,7 @@ func (w *work) inInsert(k int) (e api.Errno) {
 		}
 		w.s.Cur--
 		e = w.apply(api.Patch{At: w.s.Cur, Del: 1})
-	case isRune(k) && (k >= 32 || k == '\t' || k == '\n'):
+	case spot.IsRune(k) && (k >= 32 || k == '\t' || k == '\n'):
 		e = w.apply(api.Patch{At: w.s.Cur, Ins: string(rune(k))})
 		w.s.Cur++
 	default:

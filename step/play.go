@@ -3,6 +3,7 @@ package step
 import (
 	"quill/api"
 	"quill/regs"
+	"quill/spot"
 	"quill/text"
 	"quill/undo"
 )
@@ -51,7 +52,7 @@ func (w *work) recorded(name int) (e api.Errno) {
 	}
 	var l []rune
 	for _, k := range w.s.Keys {
-		if isRune(k) {
+		if spot.IsRune(k) {
 			l = append(l, rune(k))
 		}
 	}

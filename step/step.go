@@ -6,6 +6,7 @@ import (
 
 	"quill/api"
 	"quill/own"
+	"quill/spot"
 	"quill/text"
 )
 
@@ -40,7 +41,7 @@ func Fail(s api.State, k int, e api.Errno) api.State {
 
 // record puts a key by hand behind a macro's, if one is recorded as it was ahead of the key.
 func record(s *api.State, was int, k int) {
-	if was != 0 && s.Rec != 0 && isRune(k) && len(s.Keys) < api.MaxKeys {
+	if was != 0 && s.Rec != 0 && spot.IsRune(k) && len(s.Keys) < api.MaxKeys {
 		s.Keys = append(s.Keys, k)
 	}
 }
@@ -49,11 +50,6 @@ func record(s *api.State, was int, k int) {
 func rest(s *api.State) {
 	s.Mode, s.From = api.ModeNormal, 0
 	s.Cur, _ = text.Rest(s.Text, s.Cur)
-}
-
-// isRune tells whether a text may have it.
-func isRune(k int) bool {
-	return k > 0 && k <= utf8.MaxRune && utf8.ValidRune(rune(k))
 }
 
 // Fits tells whether a text is one that an editor of these limits may have.
