@@ -97,6 +97,21 @@ func TestApplyErrors(t *testing.T) {
 	}
 }
 
+// P5.2: up to the last byte
+func TestApplyMost(t *testing.T) {
+	b, _ := New(8, "ä\nbc")
+	if p, e := b.Apply(api.Patch{At: 2, Del: 1, Ins: "xyzvw"}); p != (api.Patch{}) || e != api.ErrFull {
+		t.Error(p, e)
+	}
+	if p, e := b.Apply(api.Patch{At: 2, Del: 1, Ins: "xyzv"}); p != (api.Patch{At: 2, Del: 4, Ins: "b"}) || e != api.OK {
+		t.Error(p, e)
+	}
+	look(t, b, "ä\nxyzvc")
+	if _, e := b.Apply(api.Patch{Ins: "a"}); e != api.ErrFull {
+		t.Error(e)
+	}
+}
+
 // P5.2, P5.3
 func TestApplyAsPatch(t *testing.T) {
 	b, _ := New(300, "one\ntwö")

@@ -48,6 +48,9 @@ func TestNew(t *testing.T) {
 			t.Error(c, e)
 		}
 	}
+	if r, e := New(1, "\x01"); e != api.OK || r.Insert(0, 2) != api.ErrFull || r.Delete(0, 1) != api.OK || r.Insert(0, 1) != api.OK {
+		t.Error(e)
+	}
 	if r, e := New(api.MaxGap, strings.Repeat("ä", api.MaxGap)); e != api.OK || r.Len() != api.MaxGap {
 		t.Error(e)
 	}
@@ -143,6 +146,11 @@ func TestAsASlice(t *testing.T) {
 			s = append(s, rune(c))
 		}
 		look(t, r, string(s), gap, moves)
+		for i, c := range want {
+			if x, e := r.Rune(i); x != c || e != api.OK {
+				t.Fatal(i, x, e)
+			}
+		}
 		low := seed / 3 % (len(s) + 1)
 		high := low + seed/5%(len(s)-low+1)
 		if x, e := r.Slice(low, high-low); x != string(s[low:high]) || e != api.OK {

@@ -47,7 +47,7 @@ func TestGo(t *testing.T) {
 		{0, ';', 0, 0, fb, 1, on, fb}, {6, ',', 0, 0, fb, 1, to, fb}, {6, ';', 7, 0, Tb, 2, to, Tb}, {0, ',', 0, 0, Tb, 0, on, Tb}, {0, ';', 0, 2, fb, -1, 0, none}, {0, ';', 0, 0, none, -1, 0, none}, {0, ',', 0, 0, api.Seek{Rune: 'b'}, -1, 0, none},
 		{0, '}', 0, 0, none, 8, to, none}, {0, '}', 0, 2, none, 15, to, none}, {14, '{', 0, 0, fb, 8, to, fb}, {0, '{', 0, 0, none, -1, 0, none},
 		{0, '%', 0, 0, none, 6, on, none}, {5, '%', 0, 99, fb, 3, on, fb}, {7, '%', 0, 0, none, -1, 0, none},
-		{0, 'j', 0, 2, fb, 9, rows, fb}, {0, 'G', 0, 0, none, 14, rows, none}, {14, gg, 0, 3, none, 11, rows, none}, {3, '0', 0, 0, none, 0, to, none}, {0, '$', 0, 0, none, 7, on, none}, {0, 'k', 0, 0, none, -1, 0, none},
+		{0, 'j', 0, 2, fb, 9, rows, fb}, {0, 'G', 0, api.MaxCount, fb, 14, rows, fb}, {0, 'G', 0, 0, none, 14, rows, none}, {14, gg, 0, 3, none, 11, rows, none}, {3, '0', 0, 0, none, 0, to, none}, {0, '$', 0, 0, none, 7, on, none}, {0, 'k', 0, 0, none, -1, 0, none},
 		{0, '`', 'a', 0, none, 11, to, none}, {0, '\'', 'a', 5, fb, 11, rows, fb}, {0, '`', 'b', 0, none, 15, to, none}, {0, '\'', 'b', 0, none, 14, rows, none}, {0, '`', 'c', 0, none, -1, 0, none}, {0, '\'', 'd', 0, none, -1, 0, none}, {0, '`', -1, 0, none, -1, 0, none},
 	} {
 		x, k, e := Go(s, c.at, api.Cmd{Key: c.key, Rune: c.r, Count: c.count}, c.k, marks)
@@ -69,6 +69,7 @@ func TestWrong(t *testing.T) {
 	}{
 		{"\xff", 0, h, api.Seek{}, nil}, {"\x00", 0, h, api.Seek{}, nil}, {strings.Repeat("x", api.MaxBytes+1), 0, h, api.Seek{}, nil}, {"ab", -1, h, api.Seek{}, nil}, {"ab", 3, h, api.Seek{}, nil},
 		{"ab", 0, api.Cmd{}, api.Seek{}, nil}, {"ab", 0, api.Cmd{Key: 'x'}, api.Seek{}, nil}, {"ab", 0, api.Cmd{Key: 'l', Count: -1}, api.Seek{}, nil}, {"ab", 0, api.Cmd{Key: 'l', Count: api.MaxCount + 1}, api.Seek{}, nil},
+		{"ab", 9, api.Cmd{Key: ';'}, api.Seek{}, nil}, {"\xff", 0, api.Cmd{Key: '`'}, api.Seek{}, nil}, {"()", 0, api.Cmd{Key: '%', Count: -1}, api.Seek{}, nil}, {"()", 0, api.Cmd{Key: '%', Count: api.MaxCount + 1}, api.Seek{}, nil}, {"()", 0, api.Cmd{Key: ';', Count: -1}, api.Seek{}, nil},
 		{"ab", 0, h, api.Seek{Kind: 'x'}, nil}, {"ab", 0, h, api.Seek{Kind: -1}, nil}, {"ab", 0, h, api.Seek{}, []api.Mark{{Name: 'A'}}}, {"ab", 0, h, api.Seek{}, []api.Mark{{Name: 'b'}, {Name: 'a'}}},
 	} {
 		if x, k, e := Go(c.s, c.at, c.c, c.k, c.l); x != (api.Target{}) || k != (api.Seek{}) || e != api.ErrForm {

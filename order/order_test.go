@@ -110,7 +110,7 @@ func TestDo(t *testing.T) {
 		o api.Op
 		e api.Errno
 	}{
-		{l, ins(id(5, 2), id(3, 3), 'x'), api.ErrBad}, {l, ins(id(5, 1), id(3, 3), 'x'), api.ErrNone}, {l, del(id(3, 3)), api.ErrNone}, {nil, del(id(3, 3)), api.ErrNone}, {many(api.MaxOps), ins(id(9000, 1), id(8000, 1), 'x'), api.ErrNone}, {many(api.MaxOps), ins(id(9000, 1), id(1, 1), 'x'), api.ErrFull}, {many(api.MaxOps), ins(id(1, 1), api.ID{}, 'x'), api.ErrBad},
+		{l, ins(id(5, 2), id(3, 3), 'x'), api.ErrBad}, {l, ins(id(1, 0), api.ID{}, 'x'), api.ErrBad}, {l, ins(id(5, 1), id(3, 3), 'x'), api.ErrNone}, {l, del(id(3, 3)), api.ErrNone}, {nil, del(id(3, 3)), api.ErrNone}, {many(api.MaxOps), ins(id(9000, 1), id(8000, 1), 'x'), api.ErrNone}, {many(api.MaxOps), ins(id(9000, 1), id(1, 1), 'x'), api.ErrFull}, {many(api.MaxOps), ins(id(1, 1), api.ID{}, 'x'), api.ErrBad},
 	} {
 		if x, e := Do(c.l, c.o); x != nil || e != c.e {
 			t.Error(i, e)

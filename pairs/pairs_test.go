@@ -75,6 +75,9 @@ func TestAround(t *testing.T) {
 			t.Error(c, o, x, e)
 		}
 	}
+	if o, c, e := Around("(a)", 1, '(', 1); o != 0 || c != 2 || e != api.OK {
+		t.Error(o, c, e)
+	}
 	if _, _, e := Around("", 0, '{', 1); e != api.ErrMove {
 		t.Error(e)
 	}

@@ -98,7 +98,7 @@ func TestVisual(t *testing.T) {
 
 // P21.1
 func TestErrors(t *testing.T) {
-	for _, s := range []string{"z", "\"!", "\"\n", "\"a\"b", "\"a3\"b", "3\"a", "gd", "gG", "dx", "dc", "d>", "cd", "guU", "gug-", "dgu", "dix", "did", "di3", "d\"a", "mA", "m1", "@A", "@@", "@:", "q1", "qA", "\x01", "\r", "ä", "3\t", "Z", "Q", "R", "&", "dr", "dgG", "ggx"} {
+	for _, s := range []string{"z", "\"!", "\"\n", "\"a\"b", "\"a3\"b", "3\"a", "gd", "gG", "dx", "dc", "d>", "cd", "guU", "gug-", "dgu", "dix", "did", "di3", "d\"a", "mA", "m1", "@A", "@@", "@:", "q1", "qA", "\x01", "\r", "ä", "3\t", "Z", "Q", "R", "&", "dr", "dgG", "ggx", "\u0080", "99d99z", "99d99ix", "99d99gz"} {
 		if c, more, e := Of(runes(s), api.ModeNormal, 999, false); c != (api.Cmd{}) || more || e != api.ErrKey {
 			t.Errorf("%q: %v %v %v", s, c, more, e)
 		}
@@ -111,6 +111,14 @@ func TestErrors(t *testing.T) {
 		}
 	}
 	if c, more, e := Of([]int{'f', api.OpG - 1}, api.ModeNormal, 999, false); c != (api.Cmd{Key: 'f', Rune: api.OpG - 1}) || more || e != api.OK {
+		t.Error(c, more, e)
+	}
+	for _, s := range []string{"99d99g", "99d99i", "99d99f", "99d99"} { // the product is asked when the command is whole
+		if c, more, e := Of(runes(s), api.ModeNormal, 999, false); c != (api.Cmd{}) || !more || e != api.OK {
+			t.Errorf("%q: %v %v %v", s, c, more, e)
+		}
+	}
+	if c, more, e := Of([]int{'r', 1}, api.ModeNormal, 999, false); c != (api.Cmd{Key: 'r', Rune: 1}) || more || e != api.OK {
 		t.Error(c, more, e)
 	}
 	for s, most := range map[string]int{"1000": 999, "13": 12, "2": 1, "13w": 12, "d13": 12, "3d5w": 12, "\"a3d5d": 12, "9d112iw": 999, "13\x1b": 12, "4d4wx": 12, "13z": 12, "99999999999999999999999999": 999} {

@@ -89,6 +89,10 @@ func TestSpliceErrors(t *testing.T) {
 	if e := x.Splice(0, 0, strings.Repeat("x", 997)); e != api.OK || x.Bytes()+2 != api.MaxBytes {
 		t.Error(e, x.Bytes())
 	}
+	one, _ := New("a", "b", "c")
+	if e := one.Splice(1, 2); e != api.OK || one.Len() != 1 || one.Height() != 1 {
+		t.Error(e, one.All())
+	}
 	if e := x.Splice(0, 3, many...); e != api.OK || x.Len() != api.MaxRows {
 		t.Error(e, x.Len())
 	}

@@ -45,6 +45,9 @@ func TestJoin(t *testing.T) {
 	if s, e := Join([]string{half, half[1:]}); len(s) != api.MaxBytes || e != api.OK {
 		t.Error(len(s), e)
 	}
+	if s, e := Join(make([]string, api.MaxBytes+1)); s != strings.Repeat("\n", api.MaxBytes) || e != api.OK {
+		t.Error(len(s), e)
+	}
 	for _, l := range [][]string{nil, {}, {"a\n"}, {"a", "b\nc"}, {"\xff"}, {"a\x00"}, {half, half}, {"\xe4", "\xb8"}, make([]string, api.MaxBytes+2)} {
 		if s, e := Join(l); s != "" || e != api.ErrForm {
 			t.Errorf("%d: %q %v", len(l), s, e)

@@ -87,6 +87,13 @@ func TestCommit(t *testing.T) {
 			t.Error(most, x, e)
 		}
 	}
+	many := api.Tree{Nodes: []api.Node{node(0, -1, 0, "")}}
+	for i := range api.MaxNodes - 1 {
+		many.Nodes = append(many.Nodes, node(i+1, i, 0, ""))
+	}
+	if x, e := Commit(many, "", api.MaxBytes, api.MaxNodes); len(x.Nodes) != api.MaxNodes || x.Nodes[63] != node(64, 0, api.MaxBytes, "") || x.Nodes[62].Seq != 62 || e != api.OK {
+		t.Error(x, e)
+	}
 	full := api.Tree{Nodes: []api.Node{node(0, -1, 0, ""), node(api.MaxSeq, 0, 0, "")}}
 	if x, e := Commit(full, "", 0, 9); x.Nodes != nil || e != api.ErrFull {
 		t.Error(x, e)

@@ -51,6 +51,7 @@ func TestMove(t *testing.T) {
 		{"a\nb", 'w', []int{2, 2, -1, 2}},
 		{"  ", 'w', []int{1, -1, 1}},
 		{"  ", 'b', []int{-1, 0, 0}},
+		{"a\n\n\nb", 'w', []int{2, 2, 3, 4, -1, 4}}, {"a\n\n\nb", 'e', []int{2, 2, 3, 4, -1, 4}}, {"  ab cd", 'b', []int{-1, 0, 0, 2, 2, 2, 5, 5}},
 		{"", 'w', []int{-1}}, {"", 'e', []int{-1}}, {"", 'b', []int{-1}},
 	} {
 		for at, want := range c.want {
@@ -78,8 +79,8 @@ func TestCount(t *testing.T) {
 					t.Errorf("%c at %d, %d times: %d %v, not %d", key, at, count, x, e, to)
 				}
 			}
-			if x, e := Move(s, at, key, api.MaxCount); e == api.OK && x != to {
-				t.Error(x, to)
+			if x, e := Move(s, at, key, api.MaxCount); to == at && e != api.ErrMove || to != at && (x != to || e != api.OK) {
+				t.Error(x, to, e)
 			}
 		}
 	}
