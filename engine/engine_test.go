@@ -109,6 +109,26 @@ func TestAsModel(t *testing.T) {
 	}
 }
 
+// P23.2: Dot of what leads into insert, as the model has it
+func TestDot(t *testing.T) {
+	for _, keys := range []string{"cw", "cc", "s", "S", "C", "\"a2cw"} {
+		g, _ := New(conf, "ab cd")
+		g.Keys("x")
+		for _, k := range keys + "z" {
+			if e := g.Key(int(k)); e != api.OK || !slices.Equal(g.State().Dot, []int{'x'}) {
+				t.Errorf("%q, %c: %v %v", keys, k, e, g.State().Dot)
+			}
+		}
+		want := []int{}
+		for _, k := range keys + "z\x1b" {
+			want = append(want, int(k))
+		}
+		if e := g.Key(27); e != api.OK || !slices.Equal(g.State().Dot, want) {
+			t.Errorf("%q: %v %v", keys, e, g.State().Dot)
+		}
+	}
+}
+
 // P23.3
 func TestPatch(t *testing.T) {
 	g, _ := New(conf, "abcdef")

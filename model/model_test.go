@@ -228,14 +228,49 @@ func TestLongInsert(t *testing.T) {
 	if x := run(t, s, "\x1b"); str(x.Dot) != "x" || len(x.Text) != api.MaxKeys-1 {
 		t.Error(len(x.Dot))
 	}
+	s = run(t, begin(t, "ab cd"), "xcw"+strings.Repeat("x", api.MaxKeys))
+	if x := run(t, s, "\x1b"); str(x.Dot) != "x" || len(s.Typed) != api.MaxKeys {
+		t.Error(len(x.Dot), len(s.Typed))
+	}
 }
 
 // P22.4: Dot
 func TestDot(t *testing.T) {
-	for keys, want := range map[string]string{"x": "x", "2x": "2x", "\"ax": "\"ax", "X": "", "yy": "", "Y": "", "dw": "dw", "g~~": "g~~", ">>": ">>", "rx": "rx", "2~": "2~", "J": "J", "xp": "p", "D": "D", "xw": "x", "xu": "x", "xma": "x", "xz": "x", "x9x": "9x", "ia\x1b": "ia\x1b", "cwa\x1b": "cwa\x1b", "sa\x1b": "sa\x1b", "oa\x1b": "oa\x1b", "x.": "x", "qaxq": "x", "xvd": "x", "xvc\x1b": "x", "xvcq\x1b": "x", "d2w": "d2w"} {
+	for keys, want := range map[string]string{"x": "x", "2x": "2x", "\"ax": "\"ax", "X": "", "yy": "", "Y": "", "dw": "dw", "g~~": "g~~", ">>": ">>", "rx": "rx", "2~": "2~", "J": "J", "xp": "p", "D": "D", "xw": "x", "xu": "x", "xma": "x", "xz": "x", "x9x": "9x", "ia\x1b": "ia\x1b", "cwa\x1b": "cwa\x1b", "sa\x1b": "sa\x1b", "oa\x1b": "oa\x1b", "x.": "x", "qaxq": "x", "xvd": "x", "xvc\x1b": "x", "xvcq\x1b": "x", "d2w": "d2w", "xy\x1b": "x", "xyyp": "p", "xcw\x1b": "cw\x1b", "xia\x1b..": "ia\x1b"} {
 		if s := run(t, begin(t, "ab cd ef\ngh"), keys); str(s.Dot) != want {
 			t.Errorf("%q: %q", keys, str(s.Dot))
 		}
+	}
+}
+
+// P22.3, P22.4: a command that leads into insert ends with it: Dot stays till Esc
+func TestDotOfInsert(t *testing.T) {
+	for _, keys := range []string{"cw", "2cw", "c2w", "\"acw", "ciw", "cc", "c$", "s", "3s", "S", "2S", "C", "\"_C", "i", "3a", "I", "A", "o", "O"} {
+		for ahead, dot := range map[string]string{"": "", "x": "x", "cwq\x1b": "cwq\x1b"} {
+			s := run(t, begin(t, "ab cd ef\n\ngh"), ahead)
+			typed := ""
+			for _, k := range keys + "zä\x7f" {
+				s = run(t, s, string(k))
+				typed += string(k)
+				if str(s.Dot) != dot || s.Err != 0 {
+					t.Errorf("%q behind %q: %q, error %d", typed, ahead, str(s.Dot), s.Err)
+				}
+			}
+			if s = run(t, s, "\x01"); str(s.Dot) != dot || s.Err != int(api.ErrKey) { // an error leaves it, too
+				t.Errorf("%q behind %q: %q, error %d", typed, ahead, str(s.Dot), s.Err)
+			}
+			if s = run(t, s, "\x1b"); str(s.Dot) != typed+"\x1b" {
+				t.Errorf("%q behind %q and Esc: %q", typed, ahead, str(s.Dot))
+			}
+		}
+	}
+	s := begin(t, "ab cd") // played keys, too
+	s.Dot, s.Regs = []int{'x'}, []api.Reg{{Name: 'a', Text: "cwz"}, {Name: 'b', Text: "y\x1b"}}
+	if s = run(t, s, "@a"); str(s.Dot) != "x" || str(s.Typed) != "cwz" {
+		t.Errorf("%q %q", str(s.Dot), str(s.Typed))
+	}
+	if s = run(t, s, "y\x1b"); str(s.Dot) != "cwzy\x1b" || s.Text != "zycd" {
+		t.Errorf("%q %q", str(s.Dot), s.Text)
 	}
 }
 
@@ -425,13 +460,13 @@ func TestAnyKeys(t *testing.T) {
 
 // What is told shares no list with what was handed in, nor within itself.
 func TestShares(t *testing.T) {
-	s := run(t, begin(t, "ab cd"), "mbqqcw")
-	dot, typed := str(s.Dot), str(s.Typed)
+	s := run(t, begin(t, "ab cd"), "mbqq\"axcw")
+	dot, typed, keys := str(s.Dot), str(s.Typed), str(s.Keys)
 	_ = append(s.Typed, 'z')
 	for i := range s.Typed {
 		s.Typed[i] = '!'
 	}
-	if str(s.Dot) != dot || typed != "cw" {
+	if str(s.Dot) != dot || dot != "\"ax" || str(s.Keys) != keys || typed != "cw" {
 		t.Error(s.Dot)
 	}
 	x, _ := Step(s, 'x')
@@ -439,7 +474,7 @@ func TestShares(t *testing.T) {
 		s.Keys[i] = 0
 	}
 	s.Marks[0].At, s.Regs[0].Text, s.Undo.Nodes[0].At = 1, "?", 77
-	if str(x.Keys) != "cwx" || x.Undo.Nodes[0].At == 77 || x.Regs[0].Text == "?" {
+	if str(x.Keys) != "\"axcwx" || x.Undo.Nodes[0].At == 77 || x.Regs[0].Text == "?" {
 		t.Error(x)
 	}
 }

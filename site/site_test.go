@@ -114,6 +114,19 @@ func TestKey(t *testing.T) {
 	agrees(t, x)
 }
 
+// P28.2: Dot of what leads into insert, as the model has it
+func TestDot(t *testing.T) {
+	x := begin(t, 1, "ab cd")
+	typed(x, "xcwz")
+	if s := x.State(); !slices.Equal(s.Dot, []int{'x'}) || s.Text != "zcd" {
+		t.Error(s.Dot, s.Text)
+	}
+	if l, e := x.Key(27); l != nil || e != api.OK || !slices.Equal(x.State().Dot, []int{'c', 'w', 'z', 27}) {
+		t.Error(l, e, x.State().Dot)
+	}
+	agrees(t, x)
+}
+
 // P28.2: no room: the editor is as an error by hand leaves it
 func TestKeyFull(t *testing.T) {
 	x := begin(t, 1, "abc")

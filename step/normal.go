@@ -1,8 +1,6 @@
 package step
 
 import (
-	"slices"
-
 	"quill/api"
 	"quill/change"
 	"quill/marks"
@@ -43,8 +41,9 @@ func (w *work) inNormal(c api.Cmd, keys []int) (e api.Errno) {
 			return w.other(c, n, keys)
 		}
 	}
-	if e == api.OK && c.Oper != 'y' && c.Key != 'Y' {
-		w.s.Dot = slices.Clone(keys)
+	// what leads into insert ends with it, and Dot is its business then
+	if e == api.OK && w.s.Mode != api.ModeInsert && c.Oper != 'y' && c.Key != 'Y' {
+		w.s.Dot = keys
 	}
 	return e
 }
