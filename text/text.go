@@ -44,15 +44,11 @@ func Join(l []string) (string, api.Errno) {
 	size := len(l) - 1
 	for _, row := range l {
 		size += len(row)
-		if size > api.MaxBytes || strings.Contains(row, "\n") {
+		if size > api.MaxBytes || !isRow(row) || !utf8.ValidString(row) {
 			return "", api.ErrForm
 		}
 	}
-	s := strings.Clone(strings.Join(l, "\n"))
-	if e := Check(s); e != api.OK {
-		return "", e
-	}
-	return s, api.OK
+	return strings.Clone(strings.Join(l, "\n")), api.OK
 }
 
 // Place tells the row and the column of an offset.

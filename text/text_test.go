@@ -133,3 +133,40 @@ func TestClassAndRest(t *testing.T) {
 		}
 	}
 }
+
+// The table of kinds is made once, whoever asks first.
+func TestTable(t *testing.T) {
+	var w sync.WaitGroup
+	for range 8 {
+		w.Go(func() {
+			if s, e := Join([]string{"a", "ä", ""}); s != "a\nä\n" || e != api.OK {
+				t.Error(s, e)
+			}
+		})
+	}
+	w.Wait()
+	for b, k := range kinds {
+		if k != kindOf(b) {
+			t.Error(b, k)
+		}
+	}
+}
+
+// Of all calls only Join stands upon the table.
+func TestWithoutTable(t *testing.T) {
+	if s, e := Join([]string{"a"}); s != "a" || e != api.OK {
+		t.Error(s, e)
+	}
+	was := kinds
+	defer func() { kinds = was }()
+	for b := range kinds {
+		kinds[b] = ^was[b]
+	}
+	if s, e := Join([]string{"a"}); s != "" || e != api.ErrForm {
+		t.Error(s, e)
+	}
+	TestCheckLenRows(t)
+	TestPlaces(t)
+	TestCut(t)
+	TestClassAndRest(t)
+}
