@@ -94,3 +94,25 @@ func TestGoesOn(t *testing.T) {
 		}
 	}
 }
+
+// Of all calls only Asks stands upon the table.
+func TestWithoutTable(t *testing.T) {
+	if !Asks('f') {
+		t.Error("f")
+	}
+	for key, k := range keys {
+		if k != kindOf(key) {
+			t.Error(key, k)
+		}
+	}
+	was := keys
+	defer func() { keys = was }()
+	for key := range keys {
+		keys[key] = (was[key] + 1) % (byMark + 1)
+	}
+	if Asks('f') || !Is('f') || Is('x') {
+		t.Error("f, x")
+	}
+	TestGo(t)
+	TestWrong(t)
+}

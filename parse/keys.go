@@ -9,6 +9,7 @@ const (
 	forVisual             // a command in ModeVisual and ModeLines
 	forObject             // an object behind i or a
 	forReg                // a register's name
+	forRune               // a motion behind which a rune stands
 )
 
 // keys has of each key what it may be; it is made once, whoever asks first.
@@ -24,6 +25,7 @@ func makeKeys() {
 	add("dxcsy><uU~JovV", forVisual)
 	add("wW\"()b[]{}Bp", forObject)
 	add("\"-_0123456789", forReg)
+	add("fFtT'`", forRune)
 	for i := range 'z' - 'a' + 1 {
 		keys['a'+i] |= forReg
 		keys['A'+i] |= forReg

@@ -6,6 +6,7 @@ import (
 	"testing"
 
 	"quill/api"
+	"quill/move"
 )
 
 func runes(s string) []int {
@@ -136,6 +137,16 @@ func TestErrors(t *testing.T) {
 	}
 	if _, more, e := Of(runes(strings.Repeat("x", 100000)), api.ModeNormal, 9, false); more || e != api.ErrKey {
 		t.Error(e)
+	}
+}
+
+// P21.1: a rune follows where the motion asks for one.
+func TestAsks(t *testing.T) {
+	for key := -1; key < 300; key++ {
+		_, more, e := Of([]int{'d', key}, api.ModeNormal, 9, false)
+		if is(key, forRune) != move.Asks(key) || move.Asks(key) && (!more || e != api.OK) {
+			t.Error(key, more, e)
+		}
 	}
 }
 
