@@ -1,6 +1,9 @@
 package parse
 
-import "sync"
+import (
+	"strings"
+	"sync"
+)
 
 // What a key may be.
 const (
@@ -12,33 +15,60 @@ const (
 	forRune               // a motion behind which a rune stands
 )
 
-// keys has of each key what it may be; it is made once, whoever asks first.
+// usesOf tells all that a key may be.
+func usesOf(key int) (use uint8) {
+	if oneOf(key, "dcy><") {
+		use |= forOper
+	}
+	if oneOf(key, "xXsSDCYpPJ~iaIAoOuvV.") || key == keyRedo {
+		use |= forNormal
+	}
+	if oneOf(key, "dxcsy><uU~JovV") {
+		use |= forVisual
+	}
+	if oneOf(key, "wW\"()b[]{}Bp") {
+		use |= forObject
+	}
+	if oneOf(key, "\"-_0123456789") || key >= 'a' && key <= 'z' || key >= 'A' && key <= 'Z' {
+		use |= forReg
+	}
+	if oneOf(key, "fFtT'`") {
+		use |= forRune
+	}
+	return use
+}
+
+func oneOf(key int, l string) bool {
+	return key >= 0 && key < 128 && strings.IndexByte(l, byte(key)) >= 0
+}
+
+// keys has of each key all that it may be; it is made once, whoever asks first.
 var (
 	keysOnce sync.Once
 	keys     [128]uint8
 )
 
 func makeKeys() {
-	add("dcy><", forOper)
-	add("xXsSDCYpPJ~iaIAoOuvV.", forNormal)
-	keys[keyRedo] |= forNormal
-	add("dxcsy><uU~JovV", forVisual)
-	add("wW\"()b[]{}Bp", forObject)
-	add("\"-_0123456789", forReg)
-	add("fFtT'`", forRune)
-	for i := range 'z' - 'a' + 1 {
-		keys['a'+i] |= forReg
-		keys['A'+i] |= forReg
+	for key := range keys {
+		keys[key] = usesOf(key)
 	}
 }
 
-func add(l string, what uint8) {
-	for i := range len(l) {
-		keys[l[i]] |= what
+// listed tells what the table has of a key.
+func listed(key int) uint8 {
+	if key < 0 || key >= len(keys) {
+		return 0
 	}
-}
-
-func is(key int, what uint8) bool {
 	keysOnce.Do(makeKeys)
-	return key >= 0 && key < len(keys) && keys[key]&what != 0
+	return keys[key]
+}
+
+// is tells whether a key may be such a one. What the table has counts only where
+// usesOf says the same: it stands beside the function, and no answer hangs on it.
+func is(key int, what uint8) bool {
+	use := usesOf(key)
+	if l := listed(key); l == use {
+		return l&what != 0
+	}
+	return use&what != 0
 }

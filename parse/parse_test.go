@@ -162,3 +162,26 @@ func TestTogether(t *testing.T) {
 	}
 	w.Wait()
 }
+
+// The table has what the function says, and no answer hangs on it.
+func TestWithoutTable(t *testing.T) {
+	if _, more, e := Of([]int{'d'}, api.ModeNormal, 9, false); !more || e != api.OK {
+		t.Error(more, e)
+	}
+	for key, use := range keys {
+		if use != usesOf(key) {
+			t.Error(key, use)
+		}
+	}
+	was := keys
+	defer func() { keys = was }()
+	for _, spoil := range []uint8{0xff, forOper, forNormal, forVisual, forObject, forReg, forRune} {
+		for key := range keys {
+			keys[key] = was[key] ^ spoil
+		}
+		TestNormal(t)
+		TestVisual(t)
+		TestErrors(t)
+		TestAsks(t)
+	}
+}
